@@ -1,0 +1,23 @@
+// Package valid holds the conditions on arguments that several layers share.
+package valid
+
+import (
+	"slices"
+
+	"thalweg/api"
+)
+
+// Within reports whether all numbers are from low to high.
+func Within(low, high int, numbers ...int) bool {
+	return Every(numbers, func(n int) bool { return low <= n && n <= high })
+}
+
+// Every reports whether a condition holds for all elements of a list.
+func Every[T any](list []T, holds func(T) bool) bool {
+	return !slices.ContainsFunc(list, func(x T) bool { return !holds(x) })
+}
+
+// Bounds reports whether bounds are valid from low to high.
+func Bounds(b api.Bounds, low, high int) bool {
+	return b.Low <= b.High && Within(low, high, b.Low, b.High)
+}

@@ -1,0 +1,53 @@
+package valid_test
+
+import (
+	"math"
+	"testing"
+
+	"thalweg/api"
+	"thalweg/valid"
+)
+
+// Both ends belong to what is allowed, and each number counts.
+func TestWithin(t *testing.T) {
+	for _, c := range []struct {
+		low, high int
+		numbers   []int
+		want      bool
+	}{
+		{1, 3, nil, true}, {3, 1, nil, true}, {1, 3, []int{1}, true}, {1, 3, []int{3, 2, 1}, true},
+		{1, 3, []int{0}, false}, {1, 3, []int{4}, false}, {1, 3, []int{2, 4}, false}, {1, 3, []int{0, 2}, false}, {3, 1, []int{2}, false},
+		{math.MinInt, math.MaxInt, []int{math.MinInt, math.MaxInt}, true}, {-1, 0, []int{math.MinInt}, false}, {-1, 0, []int{math.MaxInt}, false},
+	} {
+		if got := valid.Within(c.low, c.high, c.numbers...); got != c.want {
+			t.Errorf("%v within %d to %d: %v", c.numbers, c.low, c.high, got)
+		}
+	}
+}
+
+// A condition holds for all elements of an empty list.
+func TestEvery(t *testing.T) {
+	for _, c := range []struct {
+		list []string
+		want bool
+	}{{nil, true}, {[]string{"a"}, true}, {[]string{"a", "a"}, true}, {[]string{"b", "a"}, false}, {[]string{"a", "b"}, false}} {
+		if got := valid.Every(c.list, func(s string) bool { return s == "a" }); got != c.want {
+			t.Errorf("%v: %v", c.list, got)
+		}
+	}
+}
+
+// Bounds are valid if Low is at most High, and both are in the range.
+func TestBounds(t *testing.T) {
+	for _, c := range []struct {
+		low, high int
+		want      bool
+	}{
+		{2, 2, true}, {2, 5, true}, {5, 5, true}, {3, 4, true}, {4, 3, false}, {5, 2, false}, {1, 3, false}, {3, 6, false}, {1, 1, false}, {6, 6, false},
+		{math.MinInt, math.MaxInt, false}, {math.MaxInt, math.MinInt, false},
+	} {
+		if got := valid.Bounds(api.Bounds{Low: c.low, High: c.high}, 2, 5); got != c.want {
+			t.Errorf("%d to %d: %v", c.low, c.high, got)
+		}
+	}
+}
