@@ -1,0 +1,55 @@
+// Package cases holds values that are, and are not, valid: the tests of the layers have them in common.
+package cases
+
+import (
+	"math"
+
+	"thalweg/api"
+)
+
+// Number is a number, and whether it is valid in its place.
+type Number struct {
+	N  int
+	OK bool
+}
+
+// Numbers returns numbers that are, and are not, from low to high.
+func Numbers(low, high int) []Number {
+	var l []Number
+	for _, n := range []int{low, (low + high) / 2, high, low - 1, high + 1, math.MinInt, math.MaxInt} {
+		l = append(l, Number{n, low <= n && n <= high})
+	}
+	return l
+}
+
+// Bounds are bounds, and whether they are valid in their place.
+type Bounds struct {
+	B  api.Bounds
+	OK bool
+}
+
+// BoundsWithin returns bounds that are, and are not, valid from low to high, which are at least two apart.
+func BoundsWithin(low, high int) []Bounds {
+	good := []api.Bounds{{Low: low, High: low}, {Low: low, High: high}, {Low: high, High: high}, {Low: low + 1, High: high - 1}}
+	bad := []api.Bounds{
+		{Low: low + 1, High: low}, {Low: high, High: low}, {Low: low - 1, High: low}, {Low: low - 1, High: low - 1},
+		{Low: low, High: high + 1}, {Low: high + 1, High: high + 1},
+		{Low: math.MinInt, High: math.MaxInt}, {Low: math.MaxInt, High: math.MinInt},
+	}
+	var l []Bounds
+	for _, b := range good {
+		l = append(l, Bounds{b, true})
+	}
+	for _, b := range bad {
+		l = append(l, Bounds{b, false})
+	}
+	return l
+}
+
+// Error returns an error if a value is not valid.
+func Error(ok bool, e api.Errno) api.Errno {
+	if ok {
+		return api.OK
+	}
+	return e
+}

@@ -1,0 +1,39 @@
+package cases_test
+
+import (
+	"slices"
+	"testing"
+
+	"thalweg/api"
+	"thalweg/cases"
+	"thalweg/valid"
+)
+
+// The numbers and bounds have both ends, and what is just outside of them.
+func TestCases(t *testing.T) {
+	numbers := cases.Numbers(3, 7)
+	for _, want := range []cases.Number{{N: 3, OK: true}, {N: 7, OK: true}, {N: 2}, {N: 8}} {
+		if !slices.Contains(numbers, want) {
+			t.Error("no", want)
+		}
+	}
+	for _, c := range numbers {
+		if c.OK != valid.Within(3, 7, c.N) {
+			t.Error(c)
+		}
+	}
+	bounds := cases.BoundsWithin(3, 7)
+	for _, want := range []cases.Bounds{{B: api.Bounds{Low: 3, High: 7}, OK: true}, {B: api.Bounds{Low: 2, High: 3}}, {B: api.Bounds{Low: 3, High: 8}}, {B: api.Bounds{Low: 4, High: 3}}} {
+		if !slices.Contains(bounds, want) {
+			t.Error("no", want)
+		}
+	}
+	for _, c := range bounds {
+		if c.OK != valid.Bounds(c.B, 3, 7) {
+			t.Error(c)
+		}
+	}
+	if cases.Error(true, api.ErrArg) != api.OK || cases.Error(false, api.ErrArg) != api.ErrArg {
+		t.Error("errors")
+	}
+}
