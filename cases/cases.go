@@ -7,6 +7,19 @@ import (
 	"thalweg/api"
 )
 
+// Extremes returns integers at which sums and products would overflow.
+func Extremes() []int {
+	return []int{math.MinInt, math.MinInt + 1, -1, 0, 1, math.MaxInt - 1, math.MaxInt}
+}
+
+// Spoil writes into all the memory of a list, also behind its end.
+func Spoil[T any](l []T, x T) {
+	l = l[:cap(l)]
+	for i := range l {
+		l[i] = x
+	}
+}
+
 // Number is a number, and whether it is valid in its place.
 type Number struct {
 	N  int

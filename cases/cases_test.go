@@ -1,6 +1,7 @@
 package cases_test
 
 import (
+	"math"
 	"slices"
 	"testing"
 
@@ -35,5 +36,18 @@ func TestCases(t *testing.T) {
 	}
 	if cases.Error(true, api.ErrArg) != api.OK || cases.Error(false, api.ErrArg) != api.ErrArg {
 		t.Error("errors")
+	}
+}
+
+// A list is spoiled as a whole, and what is extreme has both ends.
+func TestSpoil(t *testing.T) {
+	l := []int{1, 2, 3, 4}
+	cases.Spoil(l[1:2:3], 9)
+	if !slices.Equal(l, []int{1, 9, 9, 4}) {
+		t.Error(l)
+	}
+	cases.Spoil([]int(nil), 9)
+	if l := cases.Extremes(); slices.Min(l) != math.MinInt || slices.Max(l) != math.MaxInt {
+		t.Error(l)
 	}
 }

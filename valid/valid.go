@@ -21,3 +21,11 @@ func Every[T any](list []T, holds func(T) bool) bool {
 func Bounds(b api.Bounds, low, high int) bool {
 	return b.Low <= b.High && Within(low, high, b.Low, b.High)
 }
+
+// Unless returns an error unless a condition holds.
+func Unless(holds bool, e api.Errno) api.Errno {
+	if holds {
+		return api.OK
+	}
+	return e
+}

@@ -51,3 +51,15 @@ func TestBounds(t *testing.T) {
 		}
 	}
 }
+
+// An error comes just if the condition does not hold.
+func TestUnless(t *testing.T) {
+	for _, e := range []api.Errno{api.OK, api.ErrArg, api.ErrSum} {
+		if got := valid.Unless(true, e); got != api.OK {
+			t.Errorf("true: %d", got)
+		}
+		if got := valid.Unless(false, e); got != e {
+			t.Errorf("false: %d, want %d", got, e)
+		}
+	}
+}
