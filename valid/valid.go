@@ -29,3 +29,14 @@ func Unless(holds bool, e api.Errno) api.Errno {
 	}
 	return e
 }
+
+// List returns the error of a list that can have at most so many elements, each of which must meet a condition.
+func List[T any](list []T, most int, holds func(T) bool) api.Errno {
+	switch {
+	case len(list) > most:
+		return api.ErrLong
+	case !Every(list, holds):
+		return api.ErrArg
+	}
+	return api.OK
+}

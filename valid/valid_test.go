@@ -63,3 +63,19 @@ func TestUnless(t *testing.T) {
 		}
 	}
 }
+
+// A list that is too long has another error than one with an element that is not valid, and this error comes first.
+func TestList(t *testing.T) {
+	for _, c := range []struct {
+		list []string
+		most int
+		want api.Errno
+	}{
+		{nil, 0, api.OK}, {[]string{}, 2, api.OK}, {[]string{"a"}, 2, api.OK}, {[]string{"a", "a"}, 2, api.OK}, {[]string{"a", "a", "a"}, 2, api.ErrLong},
+		{[]string{"b"}, 0, api.ErrLong}, {[]string{"b", "a", "a"}, 2, api.ErrLong}, {[]string{"b", "a"}, 2, api.ErrArg}, {[]string{"a", "b"}, 2, api.ErrArg},
+	} {
+		if got := valid.List(c.list, c.most, func(s string) bool { return s == "a" }); got != c.want {
+			t.Errorf("%v of at most %d: %d, want %d", c.list, c.most, got, c.want)
+		}
+	}
+}
