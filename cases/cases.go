@@ -35,6 +35,33 @@ func Numbers(low, high int) []Number {
 	return l
 }
 
+// Field is a number in a value, and from where to where it is valid.
+type Field[T any] struct {
+	Name      string
+	Of        func(*T) *int
+	Low, High int
+}
+
+// Change is a value in which one number has been changed, and whether that number is valid.
+type Change[T any] struct {
+	Name  string
+	Value T
+	OK    bool
+}
+
+// Changes returns a value with changes of each of these fields, one at a time.
+func Changes[T any](value T, fields ...Field[T]) []Change[T] {
+	var l []Change[T]
+	for _, f := range fields {
+		for _, c := range Numbers(f.Low, f.High) {
+			x := value
+			*f.Of(&x) = c.N
+			l = append(l, Change[T]{f.Name, x, c.OK})
+		}
+	}
+	return l
+}
+
 // Bounds are bounds, and whether they are valid in their place.
 type Bounds struct {
 	B  api.Bounds

@@ -39,6 +39,27 @@ func TestCases(t *testing.T) {
 	}
 }
 
+// Each field is changed alone, to all numbers that are and are not valid there.
+func TestChanges(t *testing.T) {
+	type pair struct{ a, b int }
+	first := cases.Field[pair]{Name: "a", Of: func(p *pair) *int { return &p.a }, Low: 0, High: 5}
+	second := cases.Field[pair]{Name: "b", Of: func(p *pair) *int { return &p.b }, Low: 7, High: 9}
+	var want []cases.Change[pair]
+	for _, c := range cases.Numbers(0, 5) {
+		want = append(want, cases.Change[pair]{Name: "a", Value: pair{c.N, 8}, OK: c.OK})
+	}
+	for _, c := range cases.Numbers(7, 9) {
+		want = append(want, cases.Change[pair]{Name: "b", Value: pair{3, c.N}, OK: c.OK})
+	}
+	value := pair{3, 8}
+	if got := cases.Changes(value, first, second); !slices.Equal(got, want) || value != (pair{3, 8}) {
+		t.Error(got, value)
+	}
+	if got := cases.Changes(value); got != nil {
+		t.Error(got)
+	}
+}
+
 // A list is spoiled as a whole, and what is extreme has both ends.
 func TestSpoil(t *testing.T) {
 	l := []int{1, 2, 3, 4}

@@ -40,3 +40,13 @@ func List[T any](list []T, most int, holds func(T) bool) api.Errno {
 	}
 	return api.OK
 }
+
+// First returns the first element with an error, by its number, and this error. Without one the number is 0.
+func First[T any](list []T, check func(T) api.Errno) (at int, e api.Errno) {
+	for i, x := range list {
+		if e := check(x); e != api.OK {
+			return i, e
+		}
+	}
+	return 0, api.OK
+}

@@ -79,3 +79,24 @@ func TestList(t *testing.T) {
 		}
 	}
 }
+
+// The first element with an error is told, with its own error, and no later one is looked at.
+func TestFirst(t *testing.T) {
+	for _, c := range []struct {
+		list  []api.Errno
+		at    int
+		e     api.Errno
+		looks int
+	}{
+		{nil, 0, api.OK, 0}, {[]api.Errno{0, 0}, 0, api.OK, 2}, {[]api.Errno{api.ErrArg}, 0, api.ErrArg, 1}, {[]api.Errno{0, 0, api.ErrNone, 0, api.ErrArg}, 2, api.ErrNone, 3},
+	} {
+		looks := 0
+		at, e := valid.First(c.list, func(e api.Errno) api.Errno {
+			looks++
+			return e
+		})
+		if at != c.at || e != c.e || looks != c.looks {
+			t.Errorf("%v: %d, %d after %d, want %d, %d after %d", c.list, at, e, looks, c.at, c.e, c.looks)
+		}
+	}
+}

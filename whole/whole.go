@@ -17,3 +17,12 @@ func Sum(l ...api.Bounds) api.Bounds {
 	}
 	return all
 }
+
+// Total adds numbers.
+func Total(numbers ...int) int {
+	total := 0
+	for _, n := range numbers {
+		total += n
+	}
+	return total
+}

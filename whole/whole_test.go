@@ -31,3 +31,15 @@ func TestSum(t *testing.T) {
 		}
 	}
 }
+
+// A sum of no numbers is 0.
+func TestTotal(t *testing.T) {
+	for _, c := range []struct {
+		l    []int
+		want int
+	}{{nil, 0}, {[]int{7}, 7}, {[]int{7, 0, -9, 1}, -1}} {
+		if got := whole.Total(c.l...); got != c.want {
+			t.Errorf("%v: %d, want %d", c.l, got, c.want)
+		}
+	}
+}
